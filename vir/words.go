@@ -5,13 +5,10 @@ import (
 	"strings"
 
 	"pigeonhole/api"
-	"pigeonhole/lexer"
+	"pigeonhole/names"
 )
 
-const (
-	kindName  = 1 // of a token
-	maxNumber = 99999
-)
+const maxNumber = 99999
 
 // take reads a word to where it belongs, and tells whether it could be read.
 func take[T any](word string, read func(string) (T, bool), to *T) (ok bool) {
@@ -37,7 +34,7 @@ func list[T any](words []string, read func(string) (T, bool), most int) ([]T, ap
 
 // name is the name that a word is. It is a copy, so that it does not keep the text.
 func name(word string) (string, bool) {
-	if !isName(word) {
+	if !names.Is(word) {
 		return "", false
 	}
 	return strings.Clone(word), true
@@ -50,15 +47,6 @@ func operation(word string) (string, bool) {
 		return "", false
 	}
 	return name(word)
-}
-
-func isName(s string) bool {
-	// A great text is no name, and need not be read for that.
-	if len(s) > api.MaxName {
-		return false
-	}
-	l, _, _, err := lexer.Tokens(s)
-	return err == api.OK && l[0].Kind == kindName && l[0].Text == s
 }
 
 // integer is the number that a word is.
