@@ -2,13 +2,11 @@ package virok
 
 import (
 	"iter"
-	"slices"
 
 	"pigeonhole/api"
+	"pigeonhole/ins"
 	"pigeonhole/names"
 )
-
-const nowhere = -1 // the D of a call whose value is not wanted
 
 // rule is something that is asked of an instruction.
 type rule func(*checked, api.Ins) api.Errno
@@ -30,7 +28,7 @@ func rules() [][]rule {
 
 // checkIns asks of an instruction what is asked of its kind.
 func (c *checked) checkIns(x api.Ins, last bool) api.Errno {
-	if x.Kind < api.KConst || x.Kind > api.KRet || isEnd(x) != last {
+	if x.Kind < api.KConst || x.Kind > api.KRet || ins.IsEnd(x) != last {
 		return api.ErrIns
 	}
 	for _, check := range c.rules[x.Kind] {
@@ -60,7 +58,7 @@ func (c *checked) checkCall(x api.Ins) api.Errno {
 
 // checkVregs: what is written and read must be virtual registers.
 func (c *checked) checkVregs(x api.Ins) api.Errno {
-	for _, l := range []iter.Seq[int]{writes(x), reads(x)} {
+	for _, l := range []iter.Seq[int]{ins.Writes(x), ins.Reads(x)} {
 		for v := range l {
 			if !c.isVreg(v) {
 				return api.ErrVreg
@@ -75,7 +73,7 @@ func (c *checked) checkPassed(x api.Ins) api.Errno {
 	if !c.canPass(x.Args) {
 		return api.ErrReg
 	}
-	for d := range writes(x) {
+	for d := range ins.Writes(x) {
 		if !c.t.In(c.classes[d], c.t.Result()) {
 			return api.ErrReg
 		}
@@ -116,54 +114,10 @@ func (c *checked) checkAnswer(x api.Ins) api.Errno {
 
 // checkTargets: where x goes must be blocks, and none may go to the first one.
 func (c *checked) checkTargets(x api.Ins) api.Errno {
-	for b := range targets(x) {
+	for b := range ins.Targets(x) {
 		if !c.isTarget(b) {
 			return api.ErrBlock
 		}
 	}
 	return api.OK
 }
-
-// isEnd tells whether x is one that ends a block.
-func isEnd(x api.Ins) bool {
-	return x.Kind == api.KBr || x.Kind == api.KJump || x.Kind == api.KRet
-}
-
-// reads goes over the registers that x reads.
-func reads(x api.Ins) iter.Seq[int] {
-	switch x.Kind {
-	case api.KCopy, api.KLoad, api.KBr, api.KRet:
-		return each(x.A)
-	case api.KStore:
-		return each(x.A, x.B)
-	case api.KOp, api.KCall:
-		return each(x.Args...)
-	}
-	return each()
-}
-
-// writes goes over the register that x writes, if it writes one.
-func writes(x api.Ins) iter.Seq[int] {
-	switch x.Kind {
-	case api.KConst, api.KCopy, api.KOp, api.KLoad:
-		return each(x.D)
-	case api.KCall:
-		if x.D != nowhere {
-			return each(x.D)
-		}
-	}
-	return each()
-}
-
-// targets goes over the blocks that x goes on to.
-func targets(x api.Ins) iter.Seq[int] {
-	switch x.Kind {
-	case api.KBr:
-		return each(x.T, x.F)
-	case api.KJump:
-		return each(x.T)
-	}
-	return each()
-}
-
-func each(l ...int) iter.Seq[int] { return slices.Values(l) }

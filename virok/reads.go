@@ -5,6 +5,7 @@ import (
 
 	"pigeonhole/api"
 	"pigeonhole/bitset"
+	"pigeonhole/ins"
 )
 
 // checkReads is point 4: what is read must have been written, whatever way was come.
@@ -20,12 +21,12 @@ func (c *checked) checkReads() (int, int, api.Errno) {
 // unwrittenRead is the first instruction that reads what is not written; false: there is none.
 func unwrittenRead(block []api.Ins, unwritten bitset.Set) (int, bool) {
 	for i, x := range block {
-		for v := range reads(x) {
+		for v := range ins.Reads(x) {
 			if unwritten.Has(v) {
 				return i, true
 			}
 		}
-		for d := range writes(x) {
+		for d := range ins.Writes(x) {
 			unwritten = unwritten.Without(d)
 		}
 	}
@@ -42,7 +43,7 @@ func (c *checked) unwritten() []bitset.Set {
 		b := wait[len(wait)-1]
 		wait = wait[:len(wait)-1]
 		end := sets[b].Sub(written[b])
-		for s := range targets(lastOf(c.f.Blocks[b])) {
+		for s := range ins.Targets(lastOf(c.f.Blocks[b])) {
 			if more := sets[s].Or(end); !more.Equal(sets[s]) {
 				sets[s] = more
 				wait = append(wait, s)
@@ -70,7 +71,7 @@ func (c *checked) written() []bitset.Set {
 	for _, block := range c.f.Blocks {
 		var l []int
 		for _, x := range block {
-			l = slices.AppendSeq(l, writes(x))
+			l = slices.AppendSeq(l, ins.Writes(x))
 		}
 		sets = append(sets, bitset.Of(l))
 	}

@@ -6,10 +6,9 @@ import (
 	"strings"
 
 	"pigeonhole/api"
+	"pigeonhole/ins"
 	"pigeonhole/table"
 )
-
-const nowhere = -1 // the D of a call whose value is not wanted
 
 // Kinds of events.
 const (
@@ -126,7 +125,7 @@ func (r *run) store(addr, value int) {
 func (r *run) call(x api.Ins) {
 	// The name is a copy, so that it does not keep what was handed in.
 	r.tell(api.Event{Kind: eventCall, Name: strings.Clone(x.Name), Args: r.values(x.Args)})
-	if x.D != nowhere {
+	if x.D != ins.Nowhere {
 		r.write(x.D, r.answer())
 	}
 }
