@@ -47,6 +47,21 @@ func TestP1101ArityIsTheDescriptions(t *testing.T) {
 	}
 }
 
+// TestP1101Doer: one that does much answers as Do does, time after time.
+func TestP1101Doer(t *testing.T) {
+	doer := virrun.Doer()
+	for range 3 {
+		for _, s := range slices.Concat(binary, unary, noOperations()) {
+			for _, args := range [][]int{nil, {200}, {200, 100}, {1, 0}, {-1, -1}, {1, 2, 3}} {
+				v, ok := doer(s, 8, args)
+				if got, want := (done{v, ok}), do(s, 8, args...); got != want {
+					t.Errorf("%.20q of %v: %v, want %v", s, args, got, want)
+				}
+			}
+		}
+	}
+}
+
 // done is what Do answers.
 type done struct {
 	value int
